@@ -148,9 +148,11 @@ func allWrong(t *testing.T, from func() impl.Unix, l []change) {
 		t.Fatalf("not right: %+v", from())
 	}
 	for _, c := range l {
-		if u := changed(from(), c.do); unixOk(t, u) || unixSaid(u) {
+		u := changed(from(), c.do)
+		if unixOk(t, u) || unixSaid(u) {
 			t.Errorf("%s: taken as right: %+v", c.name, u)
 		}
+		nothingComes(t, c.name, u)
 	}
 }
 
@@ -821,37 +823,40 @@ func edges() []int {
 	return append(l, 20, 21, 39, 40, 41, 77)
 }
 
-// TestUnixOkIsAsSaid turns each number of several, and takes one thing out of
-// each list or has it there twice.
-func TestUnixOkIsAsSaid(t *testing.T) {
-	asSaid := func(u impl.Unix) {
-		t.Helper()
-		if got, want := unixOk(t, u), unixSaid(u); got != want {
-			t.Fatalf("UnixOk(%+v) = %v", u, got)
+// eachTurned hands on a Unix with each of its numbers turned, and with one
+// thing taken out of each list or there twice.
+func eachTurned(t *testing.T, from impl.Unix, see func(u impl.Unix)) {
+	t.Helper()
+	u := fresh(from)
+	for _, n := range numbersOf(reflect.ValueOf(&u).Elem()) {
+		was := n.Int()
+		for _, turned := range edges() {
+			n.SetInt(int64(turned))
+			see(u)
 		}
+		n.SetInt(was)
 	}
+	for _, l := range listsOf(reflect.ValueOf(&u).Elem()) {
+		was := reflect.ValueOf(l.Interface())
+		for k := range was.Len() {
+			l.Set(reflect.AppendSlice(reflect.AppendSlice(reflect.MakeSlice(l.Type(), 0, 0), was.Slice(0, k)), was.Slice(k+1, was.Len())))
+			see(u)
+			l.Set(reflect.AppendSlice(reflect.AppendSlice(reflect.MakeSlice(l.Type(), 0, 0), was.Slice(0, k+1)), was.Slice(k, was.Len())))
+			see(u)
+		}
+		l.Set(was)
+	}
+	if !alike(u, from) {
+		t.Fatal("a turned number was not turned back")
+	}
+}
+
+func TestUnixOkIsAsSaid(t *testing.T) {
 	for _, from := range []impl.Unix{busy(), booted(), opened(8), piped(3), filed(6), crowd(3, 3, 3, 3, 3, 1), crowd(2, 1)} {
-		u := fresh(from)
-		for _, n := range numbersOf(reflect.ValueOf(&u).Elem()) {
-			was := n.Int()
-			for _, turned := range edges() {
-				n.SetInt(int64(turned))
-				asSaid(u)
+		eachTurned(t, from, func(u impl.Unix) {
+			if got, want := unixOk(t, u), unixSaid(u); got != want {
+				t.Fatalf("UnixOk(%+v) = %v", u, got)
 			}
-			n.SetInt(was)
-		}
-		for _, l := range listsOf(reflect.ValueOf(&u).Elem()) {
-			was := reflect.ValueOf(l.Interface())
-			for k := range was.Len() {
-				l.Set(reflect.AppendSlice(reflect.AppendSlice(reflect.MakeSlice(l.Type(), 0, 0), was.Slice(0, k)), was.Slice(k+1, was.Len())))
-				asSaid(u)
-				l.Set(reflect.AppendSlice(reflect.AppendSlice(reflect.MakeSlice(l.Type(), 0, 0), was.Slice(0, k+1)), was.Slice(k, was.Len())))
-				asSaid(u)
-			}
-			l.Set(was)
-		}
-		if !alike(u, from) {
-			t.Fatal("a turned number was not turned back")
-		}
+		})
 	}
 }
