@@ -153,6 +153,7 @@ func allWrong(t *testing.T, from func() impl.Unix, l []change) {
 			t.Errorf("%s: taken as right: %+v", c.name, u)
 		}
 		nothingComes(t, c.name, u)
+		noStepComes(t, c.name, u)
 	}
 }
 
@@ -391,7 +392,8 @@ func TestBootSharesNothing(t *testing.T) {
 	}
 }
 
-func TestBootRefuses(t *testing.T) {
+// bootsWrong are lists that are not 1 to MaxProgs right programs.
+func bootsWrong() [][][]impl.Ins {
 	long := yields(impl.MaxProg + 1)
 	l := [][][]impl.Ins{nil, {}, {ends(), ends(), ends(), ends(), ends()}, make([][]impl.Ins, 5), make([][]impl.Ins, 1000)}
 	for n := 1; n <= impl.MaxProgs; n++ {
@@ -403,7 +405,11 @@ func TestBootRefuses(t *testing.T) {
 			}
 		}
 	}
-	for _, progs := range l {
+	return l
+}
+
+func TestBootRefuses(t *testing.T) {
+	for _, progs := range bootsWrong() {
 		given := withRoom(progs)
 		if u, ok := impl.Boot(given); ok || !alike(u, impl.Unix{}) {
 			t.Errorf("Boot(%v) = %+v, %v", progs, u, ok)

@@ -113,9 +113,9 @@ func comesToRight(t *testing.T, u impl.Unix, l []impl.Eff) {
 	}
 }
 
-// answered is RunEffects or TickEffects, which may neither write into what it
-// is handed nor hand out memory of it.
-func answered(t *testing.T, of func(impl.Unix) []impl.Eff, u impl.Unix) []impl.Eff {
+// answered is what is told of a Unix by one that may neither write into what
+// it is handed nor hand out memory of it.
+func answered[T any](t *testing.T, of func(impl.Unix) T, u impl.Unix) T {
 	t.Helper()
 	given := withRoom(u)
 	got := of(given)
