@@ -154,6 +154,7 @@ func allWrong(t *testing.T, from func() impl.Unix, l []change) {
 		}
 		nothingComes(t, c.name, u)
 		noStepComes(t, c.name, u)
+		nothingHolds(t, c.name, u)
 	}
 }
 
