@@ -155,6 +155,7 @@ func allWrong(t *testing.T, from func() impl.Unix, l []change) {
 		nothingComes(t, c.name, u)
 		noStepComes(t, c.name, u)
 		nothingHolds(t, c.name, u)
+		nothingLoads(t, c.name, u)
 	}
 }
 
@@ -830,9 +831,9 @@ func edges() []int {
 	return append(l, 20, 21, 39, 40, 41, 77)
 }
 
-// eachTurned hands on a Unix with each of its numbers turned, and with one
-// thing taken out of each list or there twice.
-func eachTurned(t *testing.T, from impl.Unix, see func(u impl.Unix)) {
+// eachTurned hands on a value with each of its numbers and flags turned, and
+// with one thing taken out of each list or there twice.
+func eachTurned[T any](t *testing.T, from T, see func(v T)) {
 	t.Helper()
 	u := fresh(from)
 	for _, n := range numbersOf(reflect.ValueOf(&u).Elem()) {
@@ -842,6 +843,11 @@ func eachTurned(t *testing.T, from impl.Unix, see func(u impl.Unix)) {
 			see(u)
 		}
 		n.SetInt(was)
+	}
+	for _, flag := range flagsOf(reflect.ValueOf(&u).Elem()) {
+		flag.SetBool(!flag.Bool())
+		see(u)
+		flag.SetBool(!flag.Bool())
 	}
 	for _, l := range listsOf(reflect.ValueOf(&u).Elem()) {
 		was := reflect.ValueOf(l.Interface())
@@ -859,6 +865,7 @@ func eachTurned(t *testing.T, from impl.Unix, see func(u impl.Unix)) {
 }
 
 func TestUnixOkIsAsSaid(t *testing.T) {
+	t.Parallel()
 	for _, from := range []impl.Unix{busy(), booted(), opened(8), piped(3), filed(6), crowd(3, 3, 3, 3, 3, 1), crowd(2, 1)} {
 		eachTurned(t, from, func(u impl.Unix) {
 			if got, want := unixOk(t, u), unixSaid(u); got != want {

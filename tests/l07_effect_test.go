@@ -881,6 +881,7 @@ func sweep() []impl.Eff {
 
 // TestEffectsAreAsSaid holds promise 7: what does not fit changes nothing.
 func TestEffectsAreAsSaid(t *testing.T) {
+	t.Parallel()
 	for _, u := range unixes() {
 		for _, e := range sweep() {
 			want, fit := effectSaid(u, e)

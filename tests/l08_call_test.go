@@ -115,7 +115,7 @@ func comesToRight(t *testing.T, u impl.Unix, l []impl.Eff) {
 
 // answered is what is told of a Unix by one that may neither write into what
 // it is handed nor hand out memory of it.
-func answered[T any](t *testing.T, of func(impl.Unix) T, u impl.Unix) T {
+func answered[G, T any](t *testing.T, of func(G) T, u G) T {
 	t.Helper()
 	given := withRoom(u)
 	got := of(given)
@@ -1320,6 +1320,7 @@ func awaitsWhatIsGone(u impl.Unix) bool {
 // TestTurnedNumbers turns each number and takes out of each list: what is not
 // right has no effects, and what is has those that are said.
 func TestTurnedNumbers(t *testing.T) {
+	t.Parallel()
 	for _, from := range []impl.Unix{
 		asking(busy(), 1, 1, 0), asking(busy(), 13, 5, 0), asking(busy(), 9, 1, 3), asking(five(), 2, 0, 0), asking(busy(), 7, 2, 0),
 		asking(plumbed(5, 6), 8, 0, 0), asking(piped(3), 10, 0, 0), asking(filed(6), 6, 1, 1), asking(crowd(3, 3, 3, 3, 3, 1), 12, 9, 1),
@@ -1421,6 +1422,7 @@ func walked(t *testing.T, walks int, see func(u impl.Unix)) {
 
 // TestManySteps holds promise 8.
 func TestManySteps(t *testing.T) {
+	t.Parallel()
 	seen, states := map[int]int{}, map[int]int{}
 	unixes, most := 0, impl.Unix{}
 	walked(t, 100, func(u impl.Unix) {
@@ -1449,6 +1451,7 @@ func TestManySteps(t *testing.T) {
 // TestEachCallOfMany has each call, with many numbers, of Unixes that were
 // come to by many steps.
 func TestEachCallOfMany(t *testing.T) {
+	t.Parallel()
 	count, tried := 0, map[int]int{}
 	walked(t, 100, func(u impl.Unix) {
 		if count++; count%61 != 0 || len(u.Ready) == 0 {

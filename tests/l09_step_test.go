@@ -280,6 +280,7 @@ func printsAll(fd int) string {
 }
 
 func TestPipesAreReadInOrder(t *testing.T) {
+	t.Parallel()
 	for _, n := range []int{0, 1, 3, 4, 5, 9, 20} {
 		parentWrites := "pipe; fork; zero r0 child; set r0 2; close;" + writesTo(3, 100, n) + "wait; exit\n child: set r0 3; close;" + printsAll(2) + "exit"
 		childWrites := "pipe; fork; zero r0 child; set r0 3; close;" + printsAll(2) + "wait; exit\n child: set r0 2; close;" + writesTo(3, 100, n) + "exit"
@@ -506,6 +507,7 @@ func isAsItsEffects(t *testing.T, u impl.Unix) {
 }
 
 func TestRunAndTickAreTheirEffects(t *testing.T) {
+	t.Parallel()
 	for _, u := range fixed() {
 		isAsItsEffects(t, u)
 	}
@@ -581,6 +583,7 @@ func rolledActs(d *dice, n int) []int {
 }
 
 func TestPlayIsActByAct(t *testing.T) {
+	t.Parallel()
 	for walk := range 24 {
 		d := &dice{n: uint64(walk)}
 		progs := [][]impl.Ins{d.rolled(), d.rolled(), d.rolled(), d.rolled()}[:1+walk%4]
@@ -666,6 +669,7 @@ func settles(t *testing.T, u impl.Unix, n int, times int) {
 }
 
 func TestSettleIsRunAndThenTick(t *testing.T) {
+	t.Parallel()
 	u := begun(t, "fork; yield; yield; exit")
 	v, n := settleOf(t, u, 1)
 	if n != 1 || v.Tick != 1 || !slices.Equal(v.Ready, []int{2, 1}) || v.Procs[1].Pid != 2 {
@@ -725,6 +729,7 @@ func TestNotRightNoStepComes(t *testing.T) {
 
 // TestStepsOfTurnedNumbers turns each number and takes out of each list.
 func TestStepsOfTurnedNumbers(t *testing.T) {
+	t.Parallel()
 	for _, from := range []impl.Unix{asking(busy(), 7, 2, 0), asking(plumbed(5), 1, 0, 0), family(2, 1, 2)} {
 		eachTurned(t, from, func(u impl.Unix) {
 			if got := impl.Run(u); !alike(got, stepSaid(u, runSaid)) {

@@ -238,6 +238,7 @@ func (c tale) isTold(t *testing.T) {
 // TestNothingIsLost holds promise 10: each tale ends by each order, as nobody
 // sleeps on behind what was awaited.
 func TestNothingIsLost(t *testing.T) {
+	t.Parallel()
 	for _, c := range slices.Concat(talesOfKin(), talesOfReaders(), talesOfWriters()) {
 		c.isTold(t)
 	}
@@ -245,6 +246,7 @@ func TestNothingIsLost(t *testing.T) {
 
 // TestManyStepsStaySound has programs that ask for anything.
 func TestManyStepsStaySound(t *testing.T) {
+	t.Parallel()
 	met := map[int]int{}
 	walked(t, 150, func(u impl.Unix) {
 		staysSound(t, u)
@@ -264,6 +266,7 @@ func TestManyStepsStaySound(t *testing.T) {
 // TestEachCallStaysSound has each call of what was come to by many steps, and
 // of what was made by hand.
 func TestEachCallStaysSound(t *testing.T) {
+	t.Parallel()
 	asksAll := func(u impl.Unix) {
 		for sys := 1; sys <= 20; sys++ {
 			for _, a := range []int{-1, 0, 1, 2, 3, 4, 5, 6, 7, u.Next - 1} {

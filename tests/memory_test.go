@@ -5,7 +5,8 @@ import (
 	"testing"
 )
 
-// mark stands, as each number, in the spare room behind a list.
+// mark stands, as each number, in the spare room behind a list; each flag is
+// set there.
 const mark = 77
 
 const spare = 3
@@ -84,6 +85,10 @@ func putMarks(v reflect.Value) {
 		v.SetInt(mark)
 		return
 	}
+	if v.Kind() == reflect.Bool {
+		v.SetBool(true)
+		return
+	}
 	if v.Kind() == reflect.Slice {
 		return
 	}
@@ -148,15 +153,19 @@ func sharesNone(answer any, arguments ...any) bool {
 	return true
 }
 
-// numbersOf are the ways to all numbers that a value has.
-func numbersOf(v reflect.Value) []reflect.Value {
-	if v.Kind() == reflect.Int {
+// numbersOf are the ways to all numbers that a value has, flagsOf to all flags.
+func numbersOf(v reflect.Value) []reflect.Value { return leavesOf(v, reflect.Int) }
+
+func flagsOf(v reflect.Value) []reflect.Value { return leavesOf(v, reflect.Bool) }
+
+func leavesOf(v reflect.Value, kind reflect.Kind) []reflect.Value {
+	if v.Kind() == kind {
 		return []reflect.Value{v}
 	}
 	var l []reflect.Value
 	n, part := parts(v)
 	for k := range n {
-		l = append(l, numbersOf(part(k))...)
+		l = append(l, leavesOf(part(k), kind)...)
 	}
 	return l
 }
@@ -178,8 +187,9 @@ func TestMemoryIsHeldApart(t *testing.T) {
 	type pair struct {
 		N int
 		L [][]int
+		F []bool
 	}
-	p := pair{1, [][]int{{2, 3}, {}}}
+	p := pair{1, [][]int{{2, 3}, {}}, []bool{false}}
 	q := withRoom(p)
 	if !alike(p, q) || !marked(q) || !sharesNone(q, p) || !alike(pair{L: nil}, pair{L: [][]int{}}) {
 		t.Error("a copy is not one:", p, q)
@@ -187,6 +197,9 @@ func TestMemoryIsHeldApart(t *testing.T) {
 	q.L[0] = append(q.L[0], 5)
 	if marked(q) || alike(p, q) {
 		t.Error("a word behind a list is not seen:", q)
+	}
+	if q := withRoom(p); marked(pair{L: q.L, F: append(q.F, false)}) {
+		t.Error("a flag behind a list is not seen:", q)
 	}
 	if q := fresh(p); sharesNone(pair{L: [][]int{q.L[0], q.L[0][1:]}}) || sharesNone(q, q.L[0][:1]) {
 		t.Error("memory that is shared is not seen:", q)
