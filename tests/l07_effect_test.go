@@ -66,32 +66,29 @@ func spoils() []change {
 	}
 }
 
-// applied is Apply, which may neither write into what it is handed nor hand
-// out memory of it.
-func applied(t *testing.T, u impl.Unix, e impl.Eff) (impl.Unix, bool) {
+// appliedBy is what effects come to by a function, which may neither write into
+// what it is handed nor hand out memory of it.
+func appliedBy[G, E any](t *testing.T, of func(G, E) (G, bool), u G, e E) (G, bool) {
 	t.Helper()
-	given, effect := withRoom(u), withRoom(e)
-	got, ok := impl.Apply(given, effect)
-	if !alike(given, u) || !alike(effect, e) || !marked(given) || !marked(effect) {
-		t.Errorf("Apply writes into what it is handed: %+v and %+v became %+v and %+v", u, e, given, effect)
+	given, effects := withRoom(u), withRoom(e)
+	got, ok := of(given, effects)
+	if !alike(given, u) || !alike(effects, e) || !marked(given) || !marked(effects) {
+		t.Errorf("it writes into what it is handed: %+v and %+v became %+v and %+v", u, e, given, effects)
 	}
-	if !sharesNone(got, given, effect) {
-		t.Errorf("Apply(%+v, %+v) shares memory", u, e)
+	if !sharesNone(got, given, effects) {
+		t.Errorf("what %+v makes of %+v shares memory", e, u)
 	}
 	return got, ok
 }
 
+func applied(t *testing.T, u impl.Unix, e impl.Eff) (impl.Unix, bool) {
+	t.Helper()
+	return appliedBy(t, impl.Apply, u, e)
+}
+
 func appliedAll(t *testing.T, u impl.Unix, l []impl.Eff) (impl.Unix, bool) {
 	t.Helper()
-	given, effects := withRoom(u), withRoom(l)
-	got, ok := impl.ApplyAll(given, effects)
-	if !alike(given, u) || !alike(effects, l) || !marked(given) || !marked(effects) {
-		t.Errorf("ApplyAll writes into what it is handed: %+v and %+v became %+v and %+v", u, l, given, effects)
-	}
-	if !sharesNone(got, given, effects) {
-		t.Errorf("ApplyAll(%+v, %+v) shares memory", u, l)
-	}
-	return got, ok
+	return appliedBy(t, impl.ApplyAll, u, l)
 }
 
 // fits wants an effect to make just that change.

@@ -520,6 +520,7 @@ func shapeless(t *testing.T, from func() impl.Arrays, l []arraysChange) {
 		a := fresh(from())
 		c.do(&a)
 		arraysAre(t, c.name, a, impl.Unix{}, false)
+		nothingIsChanged(t, c.name, a, impl.Eff{Kind: impl.EfTick}, impl.Eff{Kind: impl.EfSpawn, A: from().Next, B: 1}, impl.Eff{Kind: impl.EfReap, A: 1})
 	}
 }
 

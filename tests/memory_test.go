@@ -24,7 +24,7 @@ func alikeParts(a reflect.Value, b reflect.Value) bool {
 		return false
 	}
 	if part == nil {
-		return a.Interface() == b.Interface()
+		return a.Equal(b)
 	}
 	for k := range n {
 		if !alikeParts(part(k), other(k)) {
