@@ -185,7 +185,7 @@ func aOkSaid(a impl.Arrays) bool {
 	return true
 }
 
-// arraysAre wants a kernel to be that of a Unix, and AOk or not.
+// arraysAre wants a kernel to be that of a Unix, of its size, and AOk or not.
 func arraysAre(t *testing.T, name string, a impl.Arrays, want impl.Unix, wantOk bool) {
 	t.Helper()
 	if got := absOf(t, a); !alike(got, want) || !alike(absSaid(a), want) {
@@ -194,12 +194,13 @@ func arraysAre(t *testing.T, name string, a impl.Arrays, want impl.Unix, wantOk 
 	if got := aOkOf(t, a); got != wantOk || aOkSaid(a) != wantOk {
 		t.Errorf("%s: AOk of %+v: %v, not %v (said is %v)", name, a, got, wantOk, aOkSaid(a))
 	}
+	sizeIs(t, name, a, len(want.Procs))
 }
 
 // arraysAreAsSaid wants of a kernel what the document says.
 func arraysAreAsSaid(t *testing.T, a impl.Arrays) {
 	t.Helper()
-	if !alike(impl.AbsA(a), absSaid(a)) || impl.AOk(a) != aOkSaid(a) {
+	if !alike(impl.AbsA(a), absSaid(a)) || impl.AOk(a) != aOkSaid(a) || impl.ASize(a) != sizeSaid(a) {
 		arraysAre(t, "turned", a, absSaid(a), aOkSaid(a))
 		t.FailNow()
 	}

@@ -274,7 +274,7 @@ func goesAlong(t *testing.T, a impl.Arrays, u impl.Unix, e impl.Eff) (impl.Array
 	t.Helper()
 	want, fit := impl.Apply(u, e)
 	got, ok := impl.AApply(a, e)
-	if ok != fit || !alike(impl.AbsA(got), want) || !framesSaid(got) || !ok && !alike(got, a) {
+	if ok != fit || !alike(impl.AbsA(got), want) || !framesSaid(got) || !ok && !alike(got, a) || impl.ASize(got) != len(want.Procs) {
 		t.Fatalf("AApply of %+v to %+v:\n%v, %+v, not\n%v, %+v", e, a, ok, got, fit, want)
 	}
 	if said, ok := aApplySaid(a, e); ok != fit || !alike(got, said) {
