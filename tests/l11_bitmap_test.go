@@ -271,11 +271,29 @@ func backwards(l []int) []int {
 	return l
 }
 
+// extremes counts how often all frames were free, and how often none was.
+type extremes struct{ all, none int }
+
+func (e *extremes) see(held []bool) {
+	switch mapFreeSaid(held) {
+	case 0:
+		e.none++
+	case frames:
+		e.all++
+	}
+}
+
+func (e *extremes) wereMet(t *testing.T) {
+	t.Helper()
+	if e.all < 50 || e.none < 50 {
+		t.Errorf("all were free %d times, none %d times", e.all, e.none)
+	}
+}
+
 // TestMapLongUse takes and gives by turns, and keeps book of what is held; some
 // often take more than they give, so that all are held at times, and none.
 func TestMapLongUse(t *testing.T) {
-	d := dice{11}
-	full, empty := 0, 0
+	d, met := dice{11}, &extremes{}
 	for _, often := range []int{1, 2, 3, 5} {
 		m, held := flags(frames, false), flags(frames, false)
 		for range 2000 {
@@ -291,17 +309,10 @@ func TestMapLongUse(t *testing.T) {
 				m, _ = impl.MapGive(m, f)
 				held = want
 			}
-			switch mapFreeSaid(held) {
-			case 0:
-				full++
-			case frames:
-				empty++
-			}
+			met.see(held)
 		}
 	}
-	if full < 50 || empty < 50 {
-		t.Errorf("all were held %d times, none %d times", full, empty)
-	}
+	met.wereMet(t)
 }
 
 func TestMapEdges(t *testing.T) {
