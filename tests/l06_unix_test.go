@@ -156,6 +156,7 @@ func allWrong(t *testing.T, from func() impl.Unix, l []change) {
 		noStepComes(t, c.name, u)
 		nothingHolds(t, c.name, u)
 		nothingLoads(t, c.name, u)
+		noNodesLoad(t, c.name, u)
 	}
 }
 

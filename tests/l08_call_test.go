@@ -1353,6 +1353,17 @@ func (d *dice) roll(n int) int {
 	return int(d.n>>33) % n
 }
 
+// order is n numbers, each once.
+func (d *dice) order(n int) []int {
+	var l []int
+	for k := range n {
+		l = slices.Insert(l, d.roll(k+1), k)
+	}
+	return l
+}
+
+func (d *dice) edge() int { return edges()[d.roll(len(edges()))] }
+
 // rolled is a program that asks for many calls, mostly with numbers that may
 // mean something, some of them with what it was told last, and begins anew.
 func (d *dice) rolled() []impl.Ins {

@@ -306,16 +306,6 @@ type elsewhere struct {
 	a impl.Arrays
 }
 
-func (e *elsewhere) order(n int) []int {
-	var l []int
-	for k := range n {
-		l = slices.Insert(l, e.d.roll(k+1), k)
-	}
-	return l
-}
-
-func (e *elsewhere) number() int { return edges()[e.d.roll(len(edges()))] }
-
 func (e *elsewhere) slots(order []int) {
 	was := fresh(e.a.Slots)
 	for k, s := range was {
@@ -362,13 +352,13 @@ func (e *elsewhere) unasked() {
 	for f, set := range e.a.Map {
 		for k := range 4 {
 			if !set {
-				e.a.Ram[4*f+k] = e.number()
+				e.a.Ram[4*f+k] = e.d.edge()
 			}
 		}
 	}
 	for _, r := range append(slices.Clone(e.a.Pipes), e.a.Ready) {
 		for k := r.Len; k < len(r.Buf); k++ {
-			r.Buf[(r.Head+k)%len(r.Buf)] = e.number()
+			r.Buf[(r.Head+k)%len(r.Buf)] = e.d.edge()
 		}
 	}
 }
@@ -377,8 +367,8 @@ func TestArraysLieAnywhere(t *testing.T) {
 	for k, u := range right() {
 		e := &elsewhere{d: &dice{n: uint64(k)}}
 		for name, move := range map[string]func(){
-			"other slots":   func() { e.slots(e.order(6)) },
-			"other frames":  func() { e.frames(e.order(16)) },
+			"other slots":   func() { e.slots(e.d.order(6)) },
+			"other frames":  func() { e.frames(e.d.order(16)) },
 			"other Heads":   e.rings,
 			"other numbers": e.unasked,
 		} {
@@ -389,8 +379,8 @@ func TestArraysLieAnywhere(t *testing.T) {
 			}
 		}
 		for range 30 {
-			e.slots(e.order(6))
-			e.frames(e.order(16))
+			e.slots(e.d.order(6))
+			e.frames(e.d.order(16))
 			e.rings()
 			e.unasked()
 			arraysAre(t, "all of it", e.a, u, true)
@@ -423,22 +413,30 @@ func TestArraysInEachOrderOfSlots(t *testing.T) {
 	}
 }
 
+// eachTurn hands on all frames in a row that begins at each one, and goes up or
+// down.
+func eachTurn(see func(order []int)) {
+	for by := range 16 {
+		for _, back := range []bool{false, true} {
+			order := make([]int, 16)
+			for f := range order {
+				order[f] = (f + by) % 16
+			}
+			if back {
+				slices.Reverse(order)
+			}
+			see(order)
+		}
+	}
+}
+
 func TestArraysInFramesThatAreTurned(t *testing.T) {
 	for _, u := range []impl.Unix{busy(), allFull(), crowd(1), crowd(3)} {
-		for by := range 16 {
-			for _, back := range []bool{false, true} {
-				order := make([]int, 16)
-				for f := range order {
-					order[f] = (f + by) % 16
-				}
-				if back {
-					slices.Reverse(order)
-				}
-				e := &elsewhere{a: arraysOf(t, u)}
-				e.frames(order)
-				arraysAre(t, fmt.Sprint("frames ", order), e.a, u, true)
-			}
-		}
+		eachTurn(func(order []int) {
+			e := &elsewhere{a: arraysOf(t, u)}
+			e.frames(order)
+			arraysAre(t, fmt.Sprint("frames ", order), e.a, u, true)
+		})
 	}
 }
 
@@ -716,7 +714,6 @@ func notOk(t *testing.T, name string, do func(a *impl.Arrays), want func(u *impl
 // TestArraysOfPagesThatAreWrong is of 4, in frames 3, 2 and 1, of 2, in 9 and 0,
 // and of 1, in frame 4.
 func TestArraysOfPagesThatAreWrong(t *testing.T) {
-	asItIs := func(u *impl.Unix) {}
 	ofFour := func(pages int) func(u *impl.Unix) {
 		return func(u *impl.Unix) { u.Procs[2].Mem = u.Procs[2].Mem[:4*pages] }
 	}
@@ -753,7 +750,6 @@ func TestArraysOfAMapThatIsWrong(t *testing.T) {
 	for f := range 16 {
 		notOk(t, fmt.Sprint("flag ", f), func(a *impl.Arrays) { a.Map[f] = !a.Map[f] }, func(u *impl.Unix) {})
 	}
-	asItIs := func(u *impl.Unix) {}
 	notOk(t, "all set", func(a *impl.Arrays) { a.Map = flags(16, true) }, asItIs)
 	notOk(t, "none set", func(a *impl.Arrays) { a.Map = flags(16, false) }, asItIs)
 	notOk(t, "as many others", func(a *impl.Arrays) { a.Map[4], a.Map[5] = false, true }, asItIs)

@@ -440,8 +440,8 @@ func TestEachKindFitsInArrays(t *testing.T) {
 
 // everywhere has all of a kernel lie elsewhere.
 func (e *elsewhere) everywhere() {
-	e.slots(e.order(6))
-	e.frames(e.order(16))
+	e.slots(e.d.order(6))
+	e.frames(e.d.order(16))
 	e.rings()
 	e.unasked()
 }

@@ -10,15 +10,22 @@ import (
 	"loop.example/g00781/impl"
 )
 
-func loadOf(t *testing.T, u impl.Unix) (impl.Arrays, bool) {
+// loadedBy is what one makes of a Unix that may neither write into it nor hand
+// out memory of it.
+func loadedBy[G any](t *testing.T, of func(impl.Unix) (G, bool), u impl.Unix) (G, bool) {
 	t.Helper()
 	loaded := false
-	a := answered(t, func(u impl.Unix) impl.Arrays {
-		made, ok := impl.ALoad(u)
+	made := answered(t, func(u impl.Unix) G {
+		made, ok := of(u)
 		loaded = ok
 		return made
 	}, u)
-	return a, loaded
+	return made, loaded
+}
+
+func loadOf(t *testing.T, u impl.Unix) (impl.Arrays, bool) {
+	t.Helper()
+	return loadedBy(t, impl.ALoad, u)
 }
 
 func sizeOf(t *testing.T, a impl.Arrays) int {
@@ -155,36 +162,49 @@ func loads(t *testing.T, u impl.Unix) impl.Arrays {
 	return a
 }
 
-func TestALoadIsAsSaid(t *testing.T) {
-	t.Parallel()
-	for _, u := range append(right(), atTheEnds()...) {
-		loads(t, u)
+// sights count what was seen of Unixes that were come to by steps.
+type sights map[string]int
+
+func (s sights) see(u impl.Unix) {
+	for _, p := range u.Procs {
+		s[fmt.Sprint("state ", p.State)]++
+		s[fmt.Sprint("pages ", len(p.Mem)/4)]++
 	}
-	seen := map[string]int{}
-	walked(t, 40, func(u impl.Unix) {
-		loads(t, u)
-		for _, p := range u.Procs {
-			seen[fmt.Sprint("state ", p.State)]++
-			seen[fmt.Sprint("pages ", len(p.Mem)/4)]++
-		}
-		for _, o := range u.Opens {
-			seen[fmt.Sprint("kind ", o.Kind)]++
-		}
-		for _, p := range u.Pipes {
-			seen[fmt.Sprint("words ", len(p.Data))]++
-		}
-		seen[fmt.Sprint("files ", min(len(u.Files), 1))]++
-		seen[fmt.Sprint("processes ", len(u.Procs))]++
-	})
+	for _, o := range u.Opens {
+		s[fmt.Sprint("kind ", o.Kind)]++
+	}
+	for _, p := range u.Pipes {
+		s[fmt.Sprint("words ", len(p.Data))]++
+	}
+	s[fmt.Sprint("files ", min(len(u.Files), 1))]++
+	s[fmt.Sprint("processes ", len(u.Procs))]++
+}
+
+// wereMany wants each of what there may be to have been seen often.
+func (s sights) wereMany(t *testing.T) {
+	t.Helper()
 	for _, what := range []string{
 		"state 1", "state 2", "state 3", "state 4", "state 5", "state 6", "pages 0", "pages 1", "pages 2", "pages 3",
 		"kind 1", "kind 2", "kind 3", "kind 4", "words 0", "words 1", "words 4", "files 0", "files 1",
 		"processes 1", "processes 2", "processes 5", "processes 6",
 	} {
-		if seen[what] < 5 {
-			t.Errorf("hardly anything was seen of %s: %v", what, seen)
+		if s[what] < 5 {
+			t.Errorf("hardly anything was seen of %s: %v", what, s)
 		}
 	}
+}
+
+func TestALoadIsAsSaid(t *testing.T) {
+	t.Parallel()
+	for _, u := range append(right(), atTheEnds()...) {
+		loads(t, u)
+	}
+	seen := sights{}
+	walked(t, 40, func(u impl.Unix) {
+		loads(t, u)
+		seen.see(u)
+	})
+	seen.wereMany(t)
 }
 
 // populated is a right Unix of processes of so many pages, of which the first
@@ -204,26 +224,15 @@ func populated(pages ...int) impl.Unix {
 	return u
 }
 
-// TestALoadOfEachNumberOfPages has as many processes as there may be, each with
-// each number of pages, up to all frames.
-func TestALoadOfEachNumberOfPages(t *testing.T) {
-	t.Parallel()
+// eachCrowd hands on each number of pages of up to as many processes as there
+// may be, up to all frames, and how many frames are left.
+func eachCrowd(t *testing.T, see func(pages []int, left int)) {
+	t.Helper()
 	counts := map[int]int{}
 	var each func(pages []int, left int)
 	each = func(pages []int, left int) {
-		u := populated(pages...)
-		a := loads(t, u)
+		see(pages, left)
 		counts[left]++
-		for k, f := 0, 0; k < len(pages); k++ {
-			want := []int{-1, -1, -1}
-			for at := range pages[k] {
-				want[at] = f
-				f++
-			}
-			if !slices.Equal(a.Slots[k].Pt, want) {
-				t.Fatalf("of %v pages slot %d has %v, not %v", pages, k, a.Slots[k].Pt, want)
-			}
-		}
 		for n := range 4 {
 			if len(pages) < 6 && n <= left && (n > 0 || len(pages) > 0) {
 				each(append(slices.Clone(pages), n), left-n)
@@ -234,40 +243,59 @@ func TestALoadOfEachNumberOfPages(t *testing.T) {
 	if counts[0] < 20 || counts[16] != 1 {
 		t.Errorf("by pages that are left there were %v", counts)
 	}
-	for _, pages := range [][]int{{3, 3, 3, 3, 3, 2}, {3, 3, 3, 3, 3, 3}, {4}, {0}, {1, 4}, {1, 1, 1, 1, 1, 1, 1}, {1, 0, 0, 0, 0, 0, 0}} {
+}
+
+// crowdsWrong are numbers of pages that are too many, or too few.
+func crowdsWrong() [][]int {
+	return [][]int{{3, 3, 3, 3, 3, 2}, {3, 3, 3, 3, 3, 3}, {4}, {0}, {1, 4}, {1, 1, 1, 1, 1, 1, 1}, {1, 0, 0, 0, 0, 0, 0}}
+}
+
+func TestALoadOfEachNumberOfPages(t *testing.T) {
+	t.Parallel()
+	eachCrowd(t, func(pages []int, left int) {
+		a := loads(t, populated(pages...))
+		for k, f := 0, 0; k < len(pages); k++ {
+			want := []int{-1, -1, -1}
+			for at := range pages[k] {
+				want[at] = f
+				f++
+			}
+			if !slices.Equal(a.Slots[k].Pt, want) {
+				t.Fatalf("of %v pages slot %d has %v, not %v", pages, k, a.Slots[k].Pt, want)
+			}
+		}
+	})
+	for _, pages := range crowdsWrong() {
 		nothingLoads(t, fmt.Sprint("pages ", pages), populated(pages...))
 	}
 }
 
-// TestALoadOfEachRing has pipes of each number of words, and each order of
-// each number of those that are ready.
-func TestALoadOfEachRing(t *testing.T) {
+// eachFilling hands on three pipes of each number of words.
+func eachFilling(see func(u impl.Unix)) {
 	for n := range 5 {
 		for m := range 5 {
 			u := piped(3)
 			u.Pipes[0].Data, u.Pipes[1].Data, u.Pipes[2].Data = wordsBehind(10, n), wordsBehind(20, m), wordsBehind(30, 4-n)
-			for id, r := range loads(t, u).Pipes {
-				if l := u.Pipes[id].Data; !r.Used || r.Head != 0 || r.Len != len(l) || !slices.Equal(r.Buf, padded(l, 0, 4)) {
-					t.Errorf("pipe %d of %v is %+v", id, l, r)
-				}
-			}
+			see(u)
 		}
 	}
+}
+
+// eachReady hands on each order of each number of those that are ready.
+func eachReady(see func(u impl.Unix)) {
 	for n := range 7 {
 		for _, order := range orderings(n) {
 			u := crowd(slices.Repeat([]int{1}, n)...)
 			for k := range order {
 				u.Ready[k] = order[k] + 1
 			}
-			if r := loads(t, u).Ready; r.Head != 0 || r.Len != n || !slices.Equal(r.Buf, padded(u.Ready, 0, 6)) {
-				t.Errorf("Ready of %v is %+v", u.Ready, r)
-			}
+			see(u)
 		}
 	}
 }
 
-// TestALoadOfEachPlace has one Open, one pipe and one file in each place.
-func TestALoadOfEachPlace(t *testing.T) {
+// eachPlace hands on one Open, one pipe and one file, in each place.
+func eachPlace(see func(u impl.Unix)) {
 	for id := range 8 {
 		for name := range 6 {
 			u := crowd(1)
@@ -275,24 +303,45 @@ func TestALoadOfEachPlace(t *testing.T) {
 			u.Opens = []impl.Open{{Id: id, Kind: impl.OpIn + id%2, Target: name % 3, Refs: 1}}
 			u.Pipes = []impl.Pipe{{Id: name % 3, Data: wordsBehind(id, name%5)}}
 			u.Files = []impl.File{{Name: name, Data: words(id + 1)}}
-			a := loads(t, u)
-			for k, o := range a.Opens {
-				if o.Used != (k == id) {
-					t.Errorf("Open %d is in place %d, too: %+v", id, k, a.Opens)
-				}
-			}
-			for k, r := range a.Pipes {
-				if r.Used != (k == name%3) {
-					t.Errorf("pipe %d is in place %d, too: %+v", name%3, k, a.Pipes)
-				}
-			}
-			for k, f := range a.Files {
-				if f.Used != (k == name) {
-					t.Errorf("file %d is in place %d, too: %+v", name, k, a.Files)
-				}
-			}
+			see(u)
 		}
 	}
+}
+
+func TestALoadOfEachRing(t *testing.T) {
+	eachFilling(func(u impl.Unix) {
+		for id, r := range loads(t, u).Pipes {
+			if l := u.Pipes[id].Data; !r.Used || r.Head != 0 || r.Len != len(l) || !slices.Equal(r.Buf, padded(l, 0, 4)) {
+				t.Errorf("pipe %d of %v is %+v", id, l, r)
+			}
+		}
+	})
+	eachReady(func(u impl.Unix) {
+		if r := loads(t, u).Ready; r.Head != 0 || r.Len != len(u.Ready) || !slices.Equal(r.Buf, padded(u.Ready, 0, 6)) {
+			t.Errorf("Ready of %v is %+v", u.Ready, r)
+		}
+	})
+}
+
+func TestALoadOfEachPlace(t *testing.T) {
+	eachPlace(func(u impl.Unix) {
+		a := loads(t, u)
+		for k, o := range a.Opens {
+			if o.Used != (k == u.Opens[0].Id) {
+				t.Errorf("Open %d is in place %d, too: %+v", u.Opens[0].Id, k, a.Opens)
+			}
+		}
+		for k, r := range a.Pipes {
+			if r.Used != (k == u.Pipes[0].Id) {
+				t.Errorf("pipe %d is in place %d, too: %+v", u.Pipes[0].Id, k, a.Pipes)
+			}
+		}
+		for k, f := range a.Files {
+			if f.Used != (k == u.Files[0].Name) {
+				t.Errorf("file %d is in place %d, too: %+v", u.Files[0].Name, k, a.Files)
+			}
+		}
+	})
 }
 
 // TestALoadOfWhatLiesAnywhere loads what AbsA tells of a kernel that goes along
@@ -377,22 +426,26 @@ func TestWhatALoadMakesIsNotKept(t *testing.T) {
 	}
 }
 
-// TestALoadKeepsNothing changes what ALoad was handed.
-func TestALoadKeepsNothing(t *testing.T) {
+// keepsNothing changes what one was handed.
+func keepsNothing[G any](t *testing.T, of func(impl.Unix) (G, bool), said func(impl.Unix) G) {
+	t.Helper()
 	for _, from := range []func() impl.Unix{busy, allFull, lastPlaces, five} {
 		u := from()
-		a := arraysOf(t, u)
+		made, _ := of(u)
 		for _, n := range numbersOf(reflect.ValueOf(&u).Elem()) {
 			n.SetInt(55)
 		}
-		if !alike(a, loadSaid(from())) {
-			t.Errorf("a change of what ALoad was handed changes what it made: %+v", a)
+		if !alike(made, said(from())) {
+			t.Errorf("a change of what it was handed changes what it made: %+v", made)
 		}
 	}
 }
 
-// TestALoadSharesNothing has lists that are one where they come in.
-func TestALoadSharesNothing(t *testing.T) {
+func TestALoadKeepsNothing(t *testing.T) { keepsNothing(t, impl.ALoad, loadSaid) }
+
+// sharesNothing hands one lists that are one where they come in.
+func sharesNothing[G any](t *testing.T, of func(impl.Unix) (G, bool), said func(impl.Unix) G) {
+	t.Helper()
 	for _, from := range []func() impl.Unix{busy, allFull, func() impl.Unix { return crowd(1, 1, 1, 1, 1, 1) }} {
 		u, program := from(), withRoom(ends())
 		regs, fds, mem := withRoom(words(4)), withRoom([]int{-1, -1, -1, -1}), withRoom(words(4))
@@ -412,15 +465,17 @@ func TestALoadSharesNothing(t *testing.T) {
 		}
 		u.Progs, u.Out = [][]impl.Ins{program, program, program}, mem
 		was := fresh(u)
-		a, ok := impl.ALoad(u)
-		if !ok || !alike(a, loadSaid(was)) || !sharesNone(a, u, program, regs, fds, mem) {
-			t.Errorf("of lists that are one ALoad makes %+v, %v", a, ok)
+		made, ok := of(u)
+		if !ok || !alike(made, said(was)) || !sharesNone(made, u, program, regs, fds, mem) {
+			t.Errorf("of lists that are one there comes %+v, %v", made, ok)
 		}
 		if !alike(u, was) || !marked(program) || !marked(regs) || !marked(fds) || !marked(mem) {
-			t.Errorf("ALoad writes into what it is handed: %+v became %+v", was, u)
+			t.Errorf("it writes into what it is handed: %+v became %+v", was, u)
 		}
 	}
 }
+
+func TestALoadSharesNothing(t *testing.T) { sharesNothing(t, impl.ALoad, loadSaid) }
 
 // TestASizeOfEachSlots has each set of slots Used, by processes of a kernel
 // that is AOk, and by slots of one that is not.

@@ -264,9 +264,9 @@ func ordersBack() [][]int {
 		}
 		l = append(l, near, far)
 	}
-	e := &elsewhere{d: &dice{15}}
+	d := dice{15}
 	for range 300 {
-		l = append(l, e.order(frames))
+		l = append(l, d.order(frames))
 	}
 	return l
 }
